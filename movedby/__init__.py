@@ -1,0 +1,1 @@
+"""How far a picture has moved: see movedby.desk."""
