@@ -1,4 +1,4 @@
-"""The calls of movedby: what it costs to take one picture for another, shifted."""
+"""The calls of movedby: what a shift between two pictures costs, and which costs least."""
 
 REFUSAL = -22
 FURTHEST_REACH = 8
@@ -12,6 +12,14 @@ def cost(w, h, r, dx, dy, a, b):
     if not within_reach(r, dx) or not within_reach(r, dy):
         return [REFUSAL]
     return [0, shift_cost(w, h, r, dx, dy, a, b)]
+
+
+def find(w, h, r, a, b):
+    """Answers 0, dx, dy and the cost of the shift that costs least, or a refusal alone."""
+    if not sizes_are_right(w, h, r):
+        return [REFUSAL]
+    first = min([rank(w, h, r, dx, dy, a, b) for dx, dy in shifts_within(r)])
+    return [0, first[3], first[2], first[0]]
 
 
 def sizes_are_right(w, h, r):
@@ -34,3 +42,17 @@ def shift_cost(w, h, r, dx, dy, a, b):
         for x in range(r, w - r):
             total = total + abs(a[y * w + x] - b[(y + dy) * w + x + dx])
     return total
+
+
+def shifts_within(r):
+    shifts = []
+    for dy in range(-r, r + 1):
+        for dx in range(-r, r + 1):
+            shifts.append((dx, dy))
+    return shifts
+
+
+def rank(w, h, r, dx, dy, a, b):
+    """A shift that is to be found ahead of another has the lesser rank."""
+    # Tuples are compared from the left: each number only settles what those before it leave even.
+    return (shift_cost(w, h, r, dx, dy, a, b), dx * dx + dy * dy, dy, dx)

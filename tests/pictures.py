@@ -1,4 +1,4 @@
-"""Pictures for the tests, and a second way to work out a cost."""
+"""Pictures for the tests, and a second way to work out a cost and the shift that is found."""
 
 
 def shifts(r):
@@ -66,3 +66,36 @@ def cost_by_rows(w, h, r, dx, dy, a, b):
     return sum(max(p, q) - min(p, q)
                for row, other in zip(ours, theirs, strict=True)
                for p, q in zip(row, other, strict=True))
+
+
+# What find is to go by, one rule after the other.
+RULES = (lambda dx, dy: dx * dx + dy * dy, lambda dx, dy: dy, lambda dx, dy: dx)
+
+
+def nearest(some):
+    """Of shifts that cost the same the one that is to be found: each rule leaves out some."""
+    left = list(some)
+    for rule in RULES:
+        least = min(rule(dx, dy) for dx, dy in left)
+        left = [(dx, dy) for dx, dy in left if rule(dx, dy) == least]
+    (only,) = left
+    return only
+
+
+def found_by_rows(w, h, r, a, b):
+    """What find is to answer, by costs of cut-out parts."""
+    costs = {(dx, dy): cost_by_rows(w, h, r, dx, dy, a, b) for dx, dy in shifts(r)}
+    least = min(costs.values())
+    dx, dy = nearest([shift for shift, price in costs.items() if price == least])
+    return [0, dx, dy, least]
+
+
+def cheap(costs):
+    """Every shift of a reach costs 255 but those in the table; as arguments for find.
+
+    The middle is one black place, so that each grey of b is what the shift to it costs.
+    """
+    r = max(1, *[abs(step) for shift in costs for step in shift])
+    side = 2 * r + 1
+    b = picture(side, side, lambda x, y: costs.get((x - r, y - r), 255))
+    return side, side, r, plain(side, side, 0), b

@@ -1,4 +1,4 @@
-"""The interface of cost: its arguments, its answer, and what it leaves alone."""
+"""The interface of cost and find: their arguments, their answers, and what they leave alone."""
 
 import ast
 import contextlib
@@ -9,11 +9,14 @@ import unittest
 from unittest import mock
 
 import movedby.desk
-from movedby.desk import cost
+from movedby.desk import cost, find
 from pictures import shifts, speckled
 
 # Taken and refused calls of one picture pair of 6 by 5.
-ARGUMENTS = ((6, 5, 2, -2, 1), (6, 5, 0, 0, 0), (6, 5, 1, 1, 1), (6, 5, 9, 0, 0), (6, 5, 1, 2, 0), (6, 5, 3, 0, 0))
+CALLS = ((cost, (6, 5, 2, -2, 1)), (find, (6, 5, 2)), (cost, (6, 5, 0, 0, 0)), (find, (6, 5, 0)),
+         (cost, (6, 5, 1, 1, 1)), (find, (6, 5, 1)), (cost, (6, 5, 9, 0, 0)), (find, (6, 5, 9)),
+         (cost, (6, 5, 1, 2, 0)), (find, (6, 5, 3)), (cost, (6, 5, 3, 0, 0)))
+TAKEN_LENGTH = {cost: 2, find: 4}
 
 
 def refuse_change(*given, **named):
@@ -34,39 +37,42 @@ class Calls(unittest.TestCase):
 
     def test_arguments(self):
         self.assertEqual(list(inspect.signature(cost).parameters), ["w", "h", "r", "dx", "dy", "a", "b"])
+        self.assertEqual(list(inspect.signature(find).parameters), ["w", "h", "r", "a", "b"])
         self.assertEqual(cost(w=1, h=1, r=0, dx=0, dy=0, a=[9], b=[4]), [0, 5])
+        self.assertEqual(find(w=1, h=1, r=0, a=[9], b=[4]), [0, 0, 0, 5])
 
     def test_answer_is_a_list_of_whole_numbers(self):
-        for arguments in ARGUMENTS:
-            answer = cost(*arguments, self.a, self.b)
-            with self.subTest(arguments=arguments):
+        for call, arguments in CALLS:
+            answer = call(*arguments, self.a, self.b)
+            with self.subTest(call=call.__name__, arguments=arguments):
                 self.assertIs(type(answer), list)
                 self.assertEqual([type(number) for number in answer], [int] * len(answer))
-                self.assertEqual(len(answer), 2 if answer[0] == 0 else 1)
+                self.assertEqual(len(answer), TAKEN_LENGTH[call] if answer[0] == 0 else 1)
 
     def test_pictures_are_after_the_call_what_they_were(self):
-        for arguments in ARGUMENTS:
+        for call, arguments in CALLS:
             a, b = list(self.a), list(self.b)
-            cost(*arguments, a, b)
-            with self.subTest(arguments=arguments):
+            call(*arguments, a, b)
+            with self.subTest(call=call.__name__, arguments=arguments):
                 self.assertEqual(a, self.a)
                 self.assertEqual(b, self.b)
 
     def test_pictures_are_not_changed_for_a_while(self):
-        for arguments in ARGUMENTS:
-            with self.subTest(arguments=arguments):
-                self.assertEqual(cost(*arguments, Untouchable(self.a), Untouchable(self.b)),
-                                 cost(*arguments, self.a, self.b))
+        for call, arguments in CALLS:
+            with self.subTest(call=call.__name__, arguments=arguments):
+                self.assertEqual(call(*arguments, Untouchable(self.a), Untouchable(self.b)),
+                                 call(*arguments, self.a, self.b))
 
     def test_one_list_as_both_pictures(self):
         for dx, dy in shifts(2):
             with self.subTest(dx=dx, dy=dy):
                 self.assertEqual(cost(6, 5, 2, dx, dy, self.a, self.a),
                                  cost(6, 5, 2, dx, dy, self.a, list(self.a)))
+        self.assertEqual(find(6, 5, 2, self.a, self.a), [0, 0, 0, 0])
 
     def test_a_second_call_answers_the_same(self):
-        first = [cost(*arguments, self.a, self.b) for arguments in ARGUMENTS]
-        second = [cost(*arguments, self.a, self.b) for arguments in reversed(ARGUMENTS)]
+        first = [call(*arguments, self.a, self.b) for call, arguments in CALLS]
+        second = [call(*arguments, self.a, self.b) for call, arguments in reversed(CALLS)]
         self.assertEqual(first, second[::-1])
 
     def test_nothing_is_kept_of_the_pictures(self):
@@ -76,15 +82,18 @@ class Calls(unittest.TestCase):
         self.assertEqual(cost(1, 1, 0, 0, 0, a, b), [0, 30])
         b[0] = 255
         self.assertEqual(cost(1, 1, 0, 0, 0, a, b), [0, 225])
+        self.assertEqual(find(1, 1, 0, a, b), [0, 0, 0, 225])
+        a[0] = 250
+        self.assertEqual(find(1, 1, 0, a, b), [0, 0, 0, 5])
 
     def test_nothing_is_kept_of_the_answer(self):
-        for arguments in ARGUMENTS:
-            answer = cost(*arguments, self.a, self.b)
+        for call, arguments in CALLS:
+            answer = call(*arguments, self.a, self.b)
             kept = list(answer)
             answer.append(1)
             answer[0] = 77
-            with self.subTest(arguments=arguments):
-                self.assertEqual(cost(*arguments, self.a, self.b), kept)
+            with self.subTest(call=call.__name__, arguments=arguments):
+                self.assertEqual(call(*arguments, self.a, self.b), kept)
 
     def test_it_prints_and_reads_nothing(self):
         printed, complained = io.StringIO(), io.StringIO()
@@ -92,8 +101,8 @@ class Calls(unittest.TestCase):
         with contextlib.redirect_stdout(printed), contextlib.redirect_stderr(complained), \
                 mock.patch("builtins.open", refused), mock.patch("builtins.input", refused), \
                 mock.patch("sys.stdin", None):
-            for arguments in ARGUMENTS:
-                cost(*arguments, self.a, self.b)
+            for call, arguments in CALLS:
+                call(*arguments, self.a, self.b)
         self.assertEqual((printed.getvalue(), complained.getvalue()), ("", ""))
 
     def test_it_imports_nothing(self):
